@@ -1,0 +1,1 @@
+"""A processor's operations as data: the numbers they give and the flags they leave."""
