@@ -1,6 +1,7 @@
 """The calls of Flagwork."""
 
 from flagwork.bits import greatest
+from flagwork.conditions import is_met
 from flagwork.decimals import run_decimal
 from flagwork.places import run_place
 from flagwork.products import run_product
@@ -42,3 +43,12 @@ def do(op, width, a, b, c, flags):
         return [-1]
     most = greatest(width)
     return run(op, width, a & most, b & most, c & most, flags)
+
+
+def when(flags, cond):
+    """[1] if the condition holds of the flags word, [0] if not, or [-1] where there is no such condition."""
+    if cond > 15:
+        return [-1]
+    if is_met(flags, cond):
+        return [1]
+    return [0]

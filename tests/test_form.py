@@ -16,6 +16,11 @@ OWN_NAMES = {
     "list", "tuple", "dict", "set", "frozenset", "isinstance", "ord", "repr", "any", "all", "divmod",
 }
 PYTHONS_NAMES = set(dir(builtins))
+# The calls of DOC.md's interface, and what each is handed.
+CALLS = {
+    "do": ["op", "width", "a", "b", "c", "flags"],
+    "when": ["flags", "cond"],
+}
 
 
 def sources():
@@ -54,15 +59,16 @@ class Form(unittest.TestCase):
                 if isinstance(node, ast.FunctionDef):
                     self.assertLessEqual(node.end_lineno - node.lineno + 1, 40, node.name)
 
-    def test_do_is_a_plain_def_of_its_file(self):
-        tops = [
-            (name, node) for name, text in sources() for node in ast.parse(text).body
-            if isinstance(node, (ast.FunctionDef, ast.ClassDef)) and node.name == "do"
-        ]
-        self.assertEqual([name for name, node in tops], ["flags.py"])
-        given = tops[0][1].args
-        self.assertEqual([one.arg for one in given.args], ["op", "width", "a", "b", "c", "flags"])
-        self.assertEqual(given.defaults, [])
+    def test_each_call_is_a_plain_def_of_its_file(self):
+        for call, names in CALLS.items():
+            tops = [
+                (name, node) for name, text in sources() for node in ast.parse(text).body
+                if isinstance(node, (ast.FunctionDef, ast.ClassDef)) and node.name == call
+            ]
+            self.assertEqual([name for name, node in tops], ["flags.py"], call)
+            given = tops[0][1].args
+            self.assertEqual([one.arg for one in given.args], names, call)
+            self.assertEqual(given.defaults, [], call)
 
     def test_nothing_is_printed(self):
         printed = io.StringIO()
@@ -70,6 +76,7 @@ class Form(unittest.TestCase):
             for op in range(46):
                 for width in (8, 16, 32, 64):
                     flags.do(op, width, 9, 3, 1, 0)
+            flags.when(0, op)
         self.assertEqual(printed.getvalue(), "")
 
 

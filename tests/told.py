@@ -1,4 +1,4 @@
-"""The operations once more, after DOC.md's words, by rows of signs and slow steps.
+"""The operations and conditions once more, after DOC.md's words, by rows of signs and slow steps.
 
 The tests hold the program to this. It is kept apart from the program on purpose:
 it shares no code with it, and works on rows of "0" and "1" where the program
@@ -267,3 +267,22 @@ def told(op, width, a, b, c, flags):
         return [answer]
     lo, hi, given = answer
     return [0, lo, hi, word(flags, given)]
+
+
+def holds(flags, cond):
+    """Whether a condition from 0 to 15 holds of the flags word."""
+    c, p, z, s, o = (row(flags, 32)[31 - PLACES[name]] for name in "CPZSO")
+    even = {
+        0: o, 2: c, 4: z, 6: max(c, z), 8: s, 10: p,
+        12: "0" if s == o else "1", 14: z if s == o else "1",
+    }
+    if cond in even:
+        return even[cond] == "1"
+    return even[cond - 1] == "0"
+
+
+def told_when(flags, cond):
+    """What `when` is to answer."""
+    if cond > 15:
+        return [-1]
+    return [1] if holds(flags, cond) else [0]
