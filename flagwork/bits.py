@@ -7,6 +7,9 @@ ZERO = 64
 SIGN = 128
 OVERFLOW = 2048
 
+# S, Z, A, P and C: they have the same places in a flags word and in its byte.
+IN_BYTE = 213
+
 
 def greatest(width):
     """N - 1, the greatest number of so many bits."""

@@ -1,5 +1,6 @@
 """The calls of Flagwork."""
 
+from flagwork.bits import IN_BYTE
 from flagwork.bits import greatest
 from flagwork.conditions import is_met
 from flagwork.decimals import run_decimal
@@ -52,3 +53,8 @@ def when(flags, cond):
     if is_met(flags, cond):
         return [1]
     return [0]
+
+
+def byte(flags):
+    """[the byte of flags]: S, Z, A, P and C of the flags word at their places, and bit 1 always at 1."""
+    return [(flags & IN_BYTE) + 2]

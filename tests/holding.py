@@ -1,9 +1,10 @@
 """What the test files share: operands, flags words, and how an answer is held to what is told."""
 
 import unittest
+from itertools import product
 
 from flagwork.flags import do
-from told import FULL, GREATEST, told
+from told import FULL, GREATEST, PLACES, told, widths_of
 
 MEANING = 1 + 4 + 16 + 64 + 128 + 2048
 
@@ -13,6 +14,17 @@ FLAGS = (
     1, 4, 16, 64, 128, 2048, 17, FULL - 1, FULL - 16, FULL - 17,
 )
 FEW_FLAGS = (0, FULL, 0xA5A5A5A4, 0x5A5A5A5B)
+
+
+def each_operation():
+    """Every operation with every width that it has."""
+    return [(op, width) for op in range(44) for width in widths_of(op)]
+
+
+def words_of_flags():
+    """Each of the 64 ways that the six flags stand, all other bits 0."""
+    for chosen in product((0, 1), repeat=6):
+        yield sum(2 ** PLACES[name] for name, one in zip("CPAZSO", chosen) if one)
 
 
 def edges(width):

@@ -1,11 +1,10 @@
 """`when`: each condition of every flags word, and what it says after cmp."""
 
 import unittest
-from itertools import product
 
 from flagwork.flags import do, when
-from holding import FLAGS, MEANING, operands
-from told import FULL, PLACES, WIDTHS, sign_read, told_when
+from holding import FLAGS, MEANING, operands, words_of_flags
+from told import FULL, WIDTHS, sign_read, told_when
 
 C, P, A, Z, S, O = 1, 4, 16, 64, 128, 2048
 
@@ -32,12 +31,6 @@ HELD = {
 # After cmp: what each condition says of a and b, and of [a] and [b].
 SAYS_PLAIN = {2: "below", 4: "equal", 6: "at most", 3: "not below", 5: "not equal", 7: "not at most"}
 SAYS_SIGNED = {12: "below", 14: "at most", 13: "not below", 15: "not at most"}
-
-
-def words_of_flags():
-    """Each of the 64 ways that the six flags stand, all other bits 0."""
-    for chosen in product((0, 1), repeat=6):
-        yield sum(2 ** PLACES[name] for name, one in zip("CPAZSO", chosen) if one)
 
 
 def is_said(word, x, y):

@@ -20,6 +20,7 @@ PYTHONS_NAMES = set(dir(builtins))
 CALLS = {
     "do": ["op", "width", "a", "b", "c", "flags"],
     "when": ["flags", "cond"],
+    "byte": ["flags"],
 }
 
 
@@ -77,6 +78,7 @@ class Form(unittest.TestCase):
                 for width in (8, 16, 32, 64):
                     flags.do(op, width, 9, 3, 1, 0)
             flags.when(0, op)
+            flags.byte(op)
         self.assertEqual(printed.getvalue(), "")
 
 

@@ -4,8 +4,8 @@ import random
 import unittest
 
 from flagwork.flags import do
-from holding import FEW_FLAGS, FLAGS, MEANING, Holding, edges, operands
-from told import FULL, GREATEST, PLACES, widths_of
+from holding import FEW_FLAGS, FLAGS, MEANING, Holding, each_operation, edges, operands
+from told import FULL, GREATEST, PLACES
 
 # The flags that each operation may give; a flag beside them is never touched.
 GIVEN = {
@@ -17,10 +17,6 @@ GIVEN = {
     33: "CPAZSO", 34: "CPAZSO", 35: "C", 36: "C", 37: "C",
     38: "CPAZS", 39: "CPAZS", 40: "CA", 41: "CA", 42: "PZS", 43: "PZS",
 }
-
-
-def each_operation():
-    return [(op, width) for op in range(44) for width in widths_of(op)]
 
 
 class EveryOperation(Holding):

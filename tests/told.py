@@ -1,4 +1,4 @@
-"""The operations and conditions once more, after DOC.md's words, by rows of signs and slow steps.
+"""What the calls answer, told once more after DOC.md's words, by rows of signs and slow steps.
 
 The tests hold the program to this. It is kept apart from the program on purpose:
 it shares no code with it, and works on rows of "0" and "1" where the program
@@ -286,3 +286,8 @@ def told_when(flags, cond):
     if cond > 15:
         return [-1]
     return [1] if holds(flags, cond) else [0]
+
+
+def told_byte(flags):
+    """What `byte` is to answer."""
+    return [sum(worth * flag(flags, name) for name, worth in zip("SZAPC", (128, 64, 16, 4, 1))) + 2]
