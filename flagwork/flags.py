@@ -58,3 +58,8 @@ def when(flags, cond):
 def byte(flags):
     """[the byte of flags]: S, Z, A, P and C of the flags word at their places, and bit 1 always at 1."""
     return [(flags & IN_BYTE) + 2]
+
+
+def unbyte(flags, b):
+    """[the flags word with the byte put in]: S, Z, A, P and C as the byte has them, all else as it was."""
+    return [(flags & ~IN_BYTE) | (b & IN_BYTE)]

@@ -27,6 +27,11 @@ def words_of_flags():
         yield sum(2 ** PLACES[name] for name, one in zip("CPAZSO", chosen) if one)
 
 
+def all_words():
+    """Each of the 64 ways that the six flags stand, with all other bits 0 and with all of them 1."""
+    return [flags + others for flags in words_of_flags() for others in (0, FULL - MEANING)]
+
+
 def edges(width):
     n = 2 ** width
     return [0, 1, n // 2 - 1, n // 2, n - 1]

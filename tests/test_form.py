@@ -21,6 +21,7 @@ CALLS = {
     "do": ["op", "width", "a", "b", "c", "flags"],
     "when": ["flags", "cond"],
     "byte": ["flags"],
+    "unbyte": ["flags", "b"],
 }
 
 
@@ -79,6 +80,7 @@ class Form(unittest.TestCase):
                     flags.do(op, width, 9, 3, 1, 0)
             flags.when(0, op)
             flags.byte(op)
+            flags.unbyte(0, op)
         self.assertEqual(printed.getvalue(), "")
 
 

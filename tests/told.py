@@ -291,3 +291,9 @@ def told_when(flags, cond):
 def told_byte(flags):
     """What `byte` is to answer."""
     return [sum(worth * flag(flags, name) for name, worth in zip("SZAPC", (128, 64, 16, 4, 1))) + 2]
+
+
+def told_unbyte(flags, b):
+    """What `unbyte` is to answer."""
+    s, z, _, a, _, p, _, c = (sign == "1" for sign in row(b, 8))
+    return [word(flags, {"S": s, "Z": z, "A": a, "P": p, "C": c})]
